@@ -157,9 +157,13 @@ func TestWrongProgramsFailEverywhere(t *testing.T) {
 	}
 }
 
+// wrongNames are texts that are no variable and no covariable.
+func wrongNames() []string {
+	return []string{"", " ", "x ", " x", "(x)", "(k)", "x1234", "k0000", "X", "K", "a", "w", "n", "xx", "xk", "x1y", "1x", "x-", "*", "mu", "tmu", "pair", "(inl x)", "(cut x k)", "é", "x\xff", "x\x00", "x,k", strings.Repeat("x", impl.TextMax+1)}
+}
+
 func TestWrongNames(t *testing.T) {
-	wrong := []string{"", " ", "x ", " x", "(x)", "(k)", "x1234", "k0000", "X", "K", "a", "w", "n", "xx", "xk", "x1y", "1x", "x-", "*", "mu", "tmu", "pair", "(inl x)", "(cut x k)", "é", "x\xff", "x\x00", "x,k", strings.Repeat("x", impl.TextMax+1)}
-	for _, n := range wrong {
+	for _, n := range wrongNames() {
 		if got := impl.ProgramUses("(cut x k)", n); got != -1 {
 			t.Errorf("ProgramUses of %q: %d", n, got)
 		}
