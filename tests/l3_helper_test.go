@@ -39,7 +39,12 @@ func (e *equations) typeText(s string, types map[string]string) string {
 	for _, part := range parts[1:] {
 		of = append(of, e.typeText(part, types))
 	}
-	switch parts[0] {
+	return e.formType(parts[0], of)
+}
+
+// formType tells the type of a form by its head and the types of its parts.
+func (e *equations) formType(head string, of []string) string {
+	switch head {
 	case "cut":
 		e.pairs = append(e.pairs, [2]string{of[0], of[1]})
 		return ""
