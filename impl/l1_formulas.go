@@ -192,6 +192,14 @@ func makePair(sign string, left part, right part) (formula, bool) {
 	return nil, false
 }
 
+// writeFormula returns the text of f, unless what was made exceeds the limit and so is no formula.
+func writeFormula(f formula) (string, bool) {
+	if f.size() > FormulaMax {
+		return "", false
+	}
+	return f.text(), true
+}
+
 // addLetters adds the letters of f that are not yet among found behind it.
 func addLetters(found []string, f formula) []string {
 	switch g := f.(type) {
@@ -292,12 +300,8 @@ func FormulaPush(s string) (string, bool) {
 	if !ok {
 		return "", false
 	}
-	pushed := push(f)
 	// A not ahead of many letters becomes one ahead of each of them, so the result may be too large.
-	if pushed.size() > FormulaMax {
-		return "", false
-	}
-	return pushed.text(), true
+	return writeFormula(push(f))
 }
 
 // A sequent has formulas on the left and on the right.

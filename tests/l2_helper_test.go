@@ -13,7 +13,7 @@ var (
 	fewCovariables = []string{"k", "k0", "k1", "l", "m2"}
 )
 
-// In a shape T stands for a term, K for a coterm, S for a statement, v for a variable and c for a covariable.
+// In a shape T stands for a term, K for a coterm, S for a statement, M for a source term, v for a variable and c for a covariable.
 var shapes = map[string][]string{
 	"term":      {"v", "(pair T T)", "(inl T)", "(inr T)", "(not K)", "(mu c S)", "(mu c S)"},
 	"coterm":    {"c", "(case K K)", "(fst K)", "(snd K)", "(neg T)", "(tmu v S)", "(tmu v S)"},
@@ -44,6 +44,8 @@ func (m *maker) fill(shape string, deep int) string {
 			made.WriteString(m.program("coterm", deep-1))
 		case 'S':
 			made.WriteString(m.program("statement", deep-1))
+		case 'M':
+			made.WriteString(m.source(deep - 1))
 		case 'v':
 			made.WriteString(fewVariables[m.below(len(fewVariables))])
 		case 'c':
@@ -80,7 +82,19 @@ func programKind(s string) string {
 	if len(s) > 6000 || len(atomText.FindAllString(s, -1)) > 500 || nesting(s) > 200 || strings.ContainsAny(s, "VCTKS") {
 		return ""
 	}
-	s = atomText.ReplaceAllStringFunc(s, func(atom string) string {
+	s = namesAsSigns(s)
+	for {
+		shorter := cutForm.ReplaceAllString(coForm.ReplaceAllString(termForm.ReplaceAllString(s, "T"), "K"), "S")
+		if shorter == s {
+			return map[string]string{"V": "term", "T": "term", "C": "coterm", "K": "coterm", "S": "statement"}[s]
+		}
+		s = shorter
+	}
+}
+
+// namesAsSigns writes V for each variable and C for each covariable.
+func namesAsSigns(s string) string {
+	return atomText.ReplaceAllStringFunc(s, func(atom string) string {
 		switch {
 		case !nameText.MatchString(atom):
 			return atom
@@ -89,13 +103,6 @@ func programKind(s string) string {
 		}
 		return "C"
 	})
-	for {
-		shorter := cutForm.ReplaceAllString(coForm.ReplaceAllString(termForm.ReplaceAllString(s, "T"), "K"), "S")
-		if shorter == s {
-			return map[string]string{"V": "term", "T": "term", "C": "coterm", "K": "coterm", "S": "statement"}[s]
-		}
-		s = shorter
-	}
 }
 
 // nesting tells how many parentheses are within each other.
