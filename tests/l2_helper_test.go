@@ -92,6 +92,14 @@ func programKind(s string) string {
 	}
 }
 
+// programOnly leaves out a text that is no program.
+func programOnly(s string) string {
+	if programKind(s) == "" {
+		return ""
+	}
+	return s
+}
+
 // namesAsSigns writes V for each variable and C for each covariable.
 func namesAsSigns(s string) string {
 	return atomText.ReplaceAllStringFunc(s, func(atom string) string {

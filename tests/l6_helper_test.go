@@ -97,11 +97,7 @@ func withNew(s string) string {
 
 // sourceProgram tells from the text of a source term its canonical program, or "" if this is none.
 func sourceProgram(s string) string {
-	p := canonOfText(withNew(s))
-	if programKind(p) == "" {
-		return ""
-	}
-	return p
+	return programOnly(canonOfText(withNew(s)))
 }
 
 // sourceTyping tells from the text of a source term its principal typing.
